@@ -1,4 +1,4 @@
-// Package sample makes programs by which the tests hold the layers against each other.
+// Package sample makes programs, and modules in IR, by which the tests hold the layers against each other.
 package sample
 
 import (
@@ -8,8 +8,7 @@ import (
 
 // Program is a program's text, the same for the same seed and size; the size, up to 4, is how deep statements and expressions are nested. check.Check accepts it; most of its runs end, well or by a trap, within some thousand steps.
 func Program(seed, size int) string {
-	m := &maker{state: uint(seed)}
-	m.below(2) // the first numbers of neighbouring seeds are alike
+	m := &maker{dice: newDice(seed)}
 	m.globals()
 	for range m.below(4) {
 		m.functions = append(m.functions, m.signature())
@@ -23,7 +22,7 @@ func Program(seed, size int) string {
 
 // maker writes a program.
 type maker struct {
-	state     uint // of the row of numbers by which it chooses
+	dice
 	text      strings.Builder
 	scalars   int // the global scalars are g0, g1, ..
 	arrays    []int
@@ -40,16 +39,6 @@ type signature struct {
 	kind   string
 	params int
 }
-
-// below is a number from 0 to n - 1.
-func (m *maker) below(n int) int {
-	m.state = m.state*6364136223846793005 + 1442695040888963407
-	return int(m.state >> 33 % uint(n))
-}
-
-func (m *maker) chance(n int) bool { return m.below(n) == 0 }
-
-func (m *maker) pick(l ...string) string { return l[m.below(len(l))] }
 
 func (m *maker) write(l ...string) {
 	for _, s := range l {
