@@ -6,6 +6,7 @@ import (
 	"testing"
 
 	"mortise/api"
+	"mortise/sample"
 )
 
 func TestExamples(t *testing.T) {
@@ -25,7 +26,7 @@ func TestExamples(t *testing.T) {
 		if wrong := Check(x.m); wrong != api.OK {
 			t.Errorf("%v: %d", x.m, wrong)
 		}
-		if run := Run(x.m, nil, x.steps); !sameRun(run, x.run) {
+		if run := Run(x.m, nil, x.steps); !sample.SameRun(run, x.run) {
 			t.Errorf("%v, %d steps: %v, want %v", x.m, x.steps, run, x.run)
 		}
 	}

@@ -68,23 +68,6 @@ func trapped(number int, out ...int) api.Run {
 	return api.Run{Out: out, Status: api.Trapped, Code: number}
 }
 
-func sameRun(a, b api.Run) bool {
-	return slices.Equal(a.Out, b.Out) && a.Status == b.Status && a.Code == b.Code
-}
-
 func isWithin(short, long []int) bool {
 	return len(short) <= len(long) && slices.Equal(short, long[:len(short)])
-}
-
-func sameModule(a, b api.Module) bool {
-	sameInstr := func(x, y api.Instr) bool {
-		return x.Op == y.Op && x.Type == y.Type && x.Dst == y.Dst && x.A == y.A && x.B == y.B && x.N == y.N && x.S == y.S && slices.Equal(x.Args, y.Args)
-	}
-	sameBlock := func(x, y api.Block) bool {
-		return x.End == y.End && slices.EqualFunc(x.Code, y.Code, sameInstr)
-	}
-	sameCode := func(x, y api.Code) bool {
-		return x.Name == y.Name && x.Type == y.Type && x.Params == y.Params && slices.Equal(x.Regs, y.Regs) && slices.EqualFunc(x.Blocks, y.Blocks, sameBlock)
-	}
-	return slices.Equal(a.Globals, b.Globals) && slices.EqualFunc(a.Funcs, b.Funcs, sameCode)
 }

@@ -6,6 +6,7 @@ import (
 	"testing"
 
 	"mortise/api"
+	"mortise/sample"
 )
 
 // trial is a module, its input, how many steps it takes till it ends, and its run with as many.
@@ -26,7 +27,7 @@ func try(t *testing.T, l []trial) {
 			continue
 		}
 		for _, steps := range []int{x.steps, x.steps + 1, x.steps + 1000, math.MaxInt} {
-			if run := Run(x.m, x.input, steps); !sameRun(run, x.run) {
+			if run := Run(x.m, x.input, steps); !sample.SameRun(run, x.run) {
 				t.Errorf("%s, %d steps: %v, want %v", x.name, steps, run, x.run)
 			}
 		}
@@ -111,7 +112,7 @@ func TestInputAndOutput(t *testing.T) {
 		{"one", twice, []int{5}, 5, done(0, 0, 5)},
 		{"none", twice, nil, 5, done(0, 0, 0)},
 	})
-	if run := Run(twice, []int{5, 6}, 3); !sameRun(run, api.Run{Out: []int{6}, Status: api.Going}) {
+	if run := Run(twice, []int{5, 6}, 3); !sample.SameRun(run, api.Run{Out: []int{6}, Status: api.Going}) {
 		t.Error(run)
 	}
 }
@@ -184,7 +185,7 @@ func TestEnds(t *testing.T) {
 		{"bare", alone(ints(1), block(jump(2)), block(leave(0)), block(jump(1))), nil, 3, done(0)},
 		{"back to the first", alone(ints(3), block(branch(0, 1, 2)), block(leave(0)), block(jump(0), set(0, 4))), nil, 5, done(4)},
 	})
-	if run := Run(alone(ints(1), block(jump(0))), nil, 100000); !sameRun(run, api.Run{Status: api.Going}) {
+	if run := Run(alone(ints(1), block(jump(0))), nil, 100000); !sample.SameRun(run, api.Run{Status: api.Going}) {
 		t.Error(run)
 	}
 }

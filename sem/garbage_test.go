@@ -5,6 +5,7 @@ import (
 	"testing"
 
 	"mortise/api"
+	"mortise/read"
 	"mortise/sample"
 )
 
@@ -57,44 +58,11 @@ func TestProgramsThatAreNone(t *testing.T) {
 func TestSpoiledPrograms(t *testing.T) {
 	random := rand.New(rand.NewSource(5))
 	for seed := range 2000 {
-		p := checked(t, sample.Program(seed, seed%4))
+		p := read.Checked(sample.Program(seed, seed%4))
 		for range 1 + random.Intn(4) {
-			spoil(random, &p)
+			sample.SpoilProgram(random.Int(), &p)
 		}
-		Run(p, inputs()[1], 3000)
-	}
-}
-
-// spoil exchanges something of a program.
-func spoil(random *rand.Rand, p *api.Program) {
-	n := &p.Nodes[random.Intn(len(p.Nodes))]
-	f := &p.Funcs[random.Intn(len(p.Funcs))]
-	number := []int{-1 << 63, -2, -1, 0, 1, 2, 5, len(p.Nodes) - 1, len(p.Nodes), 1<<63 - 1}[random.Intn(10)]
-	switch random.Intn(12) {
-	case 0:
-		n.Op = random.Intn(23)
-	case 1:
-		n.S = "?"
-	case 2:
-		n.To = number
-	case 3:
-		n.Kids = n.Kids[:random.Intn(len(n.Kids)+1)]
-	case 4:
-		n.Kids = append(n.Kids, number)
-	case 5, 6:
-		if len(n.Kids) > 0 {
-			n.Kids[random.Intn(len(n.Kids))] = random.Intn(len(p.Nodes))
-		}
-	case 7:
-		n.Ref = number
-	case 8:
-		f.Body = number
-	case 9:
-		f.Vars = f.Vars[:random.Intn(len(f.Vars)+1)]
-	case 10:
-		f.Params = f.Params[:random.Intn(len(f.Params)+1)]
-	default:
-		p.Globals[random.Intn(len(p.Globals))].Size = number
+		Run(p, sample.Inputs()[1], 3000)
 	}
 }
 
@@ -104,8 +72,8 @@ func TestDeepestProgram(t *testing.T) {
 	for range 1900 {
 		sum += " + 1"
 	}
-	p := checked(t, "int f(int n) { if (n) return f(n - 1) + "+sum+"; return 0; } int main() { return f(30); }")
-	if run := Run(p, nil, 1<<20); !sameRun(run, done(30*1901)) {
+	p := read.Checked("int f(int n) { if (n) return f(n - 1) + " + sum + "; return 0; } int main() { return f(30); }")
+	if run := Run(p, nil, 1<<20); !sample.SameRun(run, done(30*1901)) {
 		t.Error(run)
 	}
 }

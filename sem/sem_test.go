@@ -5,6 +5,8 @@ import (
 	"testing"
 
 	"mortise/api"
+	"mortise/read"
+	"mortise/sample"
 )
 
 // trial is a program, its input, how many steps it needs till it ends, and its run with as many.
@@ -25,9 +27,9 @@ func trapped(number int, out ...int) api.Run {
 func try(t *testing.T, l []trial) {
 	t.Helper()
 	for _, x := range l {
-		p := checked(t, x.text)
+		p := read.Checked(x.text)
 		for _, steps := range []int{x.steps, x.steps + 1, x.steps + 1000} {
-			if run := Run(p, x.input, steps); !sameRun(run, x.run) {
+			if run := Run(p, x.input, steps); !sample.SameRun(run, x.run) {
 				t.Errorf("%s, input %v, %d steps: %v, want %v", x.text, x.input, steps, run, x.run)
 			}
 		}
@@ -57,7 +59,7 @@ func TestExamples(t *testing.T) {
 		{"int main() { int a = 0; int b = 0; if (a) if (b) out(1); else out(2); }", nil, 100, done(0)},
 		{"int main() { int a = 1; int b = 0; if (a) if (b) out(1); else out(2); }", nil, 100, done(0, 2)},
 	} {
-		if run := Run(checked(t, x.text), x.input, x.steps); !sameRun(run, x.run) {
+		if run := Run(read.Checked(x.text), x.input, x.steps); !sample.SameRun(run, x.run) {
 			t.Errorf("%s: %v, want %v", x.text, run, x.run)
 		}
 	}
@@ -122,7 +124,7 @@ func TestJumps(t *testing.T) {
 
 func TestEndless(t *testing.T) {
 	for _, text := range []string{"int main() { l: goto l; }", "int main() { while (1) {} }", "int main() { while (1) if (0) out(1); }", "int main() { l: m: { goto l; } }"} {
-		if run := Run(checked(t, text), nil, 10000); !sameRun(run, api.Run{Status: api.Going}) {
+		if run := Run(read.Checked(text), nil, 10000); !sample.SameRun(run, api.Run{Status: api.Going}) {
 			t.Errorf("%s: %v", text, run)
 		}
 	}
@@ -155,7 +157,7 @@ func TestVariables(t *testing.T) {
 		{"int x; int f() { x = x + 1; return x; } int main() { int a = f(); int x = 9; a = f(); out(a); out(x); }", nil, 0, done(0, 2, 9)},
 		{"int main() { int a = 1; if (0) int b = 2; out(b); b = 4; out(a + b); }", nil, 0, done(0, 0, 5)},
 	} {
-		if run := Run(checked(t, x.text), x.input, 1000); !sameRun(run, x.run) {
+		if run := Run(read.Checked(x.text), x.input, 1000); !sample.SameRun(run, x.run) {
 			t.Errorf("%s: %v, want %v", x.text, run, x.run)
 		}
 	}
@@ -163,16 +165,16 @@ func TestVariables(t *testing.T) {
 
 // P5.1: a number of steps that is never used up changes nothing.
 func TestMostSteps(t *testing.T) {
-	if run := Run(checked(t, "int main() { out(in()); return 7; }"), []int{4}, math.MaxInt); !sameRun(run, done(7, 4)) {
+	if run := Run(read.Checked("int main() { out(in()); return 7; }"), []int{4}, math.MaxInt); !sample.SameRun(run, done(7, 4)) {
 		t.Error(run)
 	}
 }
 
 // P5.1: without steps, nothing begins.
 func TestNoSteps(t *testing.T) {
-	p := checked(t, "int main() { }")
+	p := read.Checked("int main() { }")
 	for _, steps := range []int{0, -1, math.MinInt} {
-		if run := Run(p, nil, steps); !sameRun(run, api.Run{Status: api.Going}) {
+		if run := Run(p, nil, steps); !sample.SameRun(run, api.Run{Status: api.Going}) {
 			t.Error(steps, run)
 		}
 	}

@@ -4,6 +4,8 @@ import (
 	"testing"
 
 	"mortise/api"
+	"mortise/read"
+	"mortise/sample"
 )
 
 // P5.2 to P5.4: a trap ends the run with what was output until then; it needs no step of its own.
@@ -51,7 +53,7 @@ func TestCalls(t *testing.T) {
 		n   int
 		run api.Run
 	}{{30, done(5)}, {31, trapped(api.TrapCalls)}, {0, done(5)}} {
-		if run := Run(checked(t, down), []int{x.n}, 10000); !sameRun(run, x.run) {
+		if run := Run(read.Checked(down), []int{x.n}, 10000); !sample.SameRun(run, x.run) {
 			t.Error(x.n, run)
 		}
 	}
@@ -63,7 +65,7 @@ func TestCalls(t *testing.T) {
 		{"void f() { g(); } void g() { out(1); f(); } int main() { f(); }", nil, 0, trapped(api.TrapCalls, 1, 1, 1, 1, 1, 1, 1, 1, 1, 1, 1, 1, 1, 1, 1)},
 		{"int f(int n) { out(n); return n; } int r(int n) { return r(f(n)); } int main() { r(1); }", nil, 0, trapped(api.TrapCalls, 1, 1, 1, 1, 1, 1, 1, 1, 1, 1, 1, 1, 1, 1, 1, 1, 1, 1, 1, 1, 1, 1, 1, 1, 1, 1, 1, 1, 1, 1)},
 	} {
-		if run := Run(checked(t, x.text), nil, 10000); !sameRun(run, x.run) {
+		if run := Run(read.Checked(x.text), nil, 10000); !sample.SameRun(run, x.run) {
 			t.Error(x.text, run)
 		}
 	}

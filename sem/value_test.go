@@ -4,6 +4,8 @@ import (
 	"testing"
 
 	"mortise/api"
+	"mortise/read"
+	"mortise/sample"
 )
 
 // P5.3, P5.4: what expressions are: out(..) tells each as a Long.
@@ -30,7 +32,7 @@ func TestValues(t *testing.T) {
 	} {
 		text := "char c[2]; int n[2]; long l[2]; int g; long h; int i8() { return 8; } long l8() { return 8; } int first(int a, long b) { return a; } long second(int a, long b) { return b; }\n" +
 			"int main() { c[1] = 200; n[1] = 1; l[1] = 1; g = 1; h = 1; out(" + x.value + "); return 0; }"
-		if run := Run(checked(t, text), nil, 1000); !sameRun(run, done(0, x.want)) {
+		if run := Run(read.Checked(text), nil, 1000); !sample.SameRun(run, done(0, x.want)) {
 			t.Errorf("%s: %v, want %d", x.value, run, x.want)
 		}
 	}
@@ -65,7 +67,7 @@ func TestOrderOfEvaluation(t *testing.T) {
 		{"out(f(1) == f(1));", done(0, 1, 1, 1)},
 		{"if (f(1) < f(2)) out(9);", done(0, 1, 2, 9)},
 	} {
-		if run := Run(checked(t, f+"int main() { "+x.body+" }"), nil, 1000); !sameRun(run, x.run) {
+		if run := Run(read.Checked(f+"int main() { "+x.body+" }"), nil, 1000); !sample.SameRun(run, x.run) {
 			t.Errorf("%s: %v, want %v", x.body, run, x.run)
 		}
 	}
