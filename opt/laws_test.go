@@ -1,0 +1,310 @@
+package opt
+
+import (
+	"math/rand"
+	"slices"
+	"testing"
+
+	"mortise/api"
+	"mortise/ir"
+	"mortise/sample"
+)
+
+// changed is a module whose functions were changed, one after the other.
+func changed(m api.Module, changes ...func(api.Code) api.Code) api.Module {
+	out := api.Module{Globals: m.Globals}
+	for _, c := range m.Funcs {
+		for _, change := range changes {
+			c = change(c)
+		}
+		out.Funcs = append(out.Funcs, c)
+	}
+	return out
+}
+
+// ways are the ways to change a module that must keep what it does.
+func ways() map[string][]func(api.Code) api.Code {
+	return map[string][]func(api.Code) api.Code{
+		"Fold": {Fold}, "Dead": {Dead}, "Fold and Dead": {Fold, Dead}, "Dead and Fold": {Dead, Fold}, "both twice": {Fold, Dead, Fold, Dead},
+	}
+}
+
+// P8.3: the functions of a valid module may be replaced, all of them or each alone.
+func TestValidity(t *testing.T) {
+	for name, m := range modules {
+		for way, l := range ways() {
+			better := changed(m, l...)
+			if no := ir.Check(better); no != api.OK {
+				t.Fatalf("seed %d, %s: error %d\n%s", name, way, no, sample.ShowModule(better))
+			}
+			for k := range m.Funcs {
+				one := api.Module{Globals: m.Globals, Funcs: slices.Clone(m.Funcs)}
+				one.Funcs[k] = better.Funcs[k]
+				if no := ir.Check(one); no != api.OK {
+					t.Fatalf("seed %d, %s of function %d: error %d", name, way, k, no)
+				}
+			}
+		}
+	}
+}
+
+// holdRuns holds P8.4 for the runs of a module with some steps: one that has ended ends in the same way with as many, and what was output is output; and nothing else is.
+func holdRuns(t *testing.T, name int, way string, m, better api.Module, input []int, steps int) api.Run {
+	t.Helper()
+	want, got := ir.Run(m, input, steps), ir.Run(better, input, steps)
+	switch {
+	case want.Status != api.Going && !sample.SameRun(got, want), len(got.Out) < len(want.Out), !slices.Equal(got.Out[:len(want.Out)], want.Out):
+		t.Fatalf("seed %d, %s, input %v, %d steps: %v, want %v", name, way, input, steps, got, want)
+	}
+	return want
+}
+
+// P8.4: made modules do the same in no more steps.
+func TestPreservation(t *testing.T) {
+	ends := map[[2]int]int{}
+	for name, m := range modules {
+		for way, l := range ways() {
+			better := changed(m, l...)
+			for _, input := range sample.Inputs() {
+				for _, steps := range []int{name&63 + 1, 300, 3000} {
+					run := holdRuns(t, name, way, m, better, input, steps)
+					if run.Status == api.Done {
+						run.Code = 0
+					}
+					ends[[2]int{run.Status, run.Code}]++
+				}
+			}
+		}
+	}
+	for _, end := range [][2]int{{api.Done}, {api.Going}, {api.Trapped, 1}, {api.Trapped, 2}, {api.Trapped, 3}, {api.Trapped, 4}} {
+		if ends[end] < 100 {
+			t.Errorf("only %d runs ended with %v", ends[end], end)
+		}
+	}
+}
+
+// P8.4: the same after each of the first steps; and what a run outputs earlier than before is what it would have been.
+func TestEachStep(t *testing.T) {
+	fewer := 0
+	for seed := range 300 {
+		m := sample.Module(seed, seed%5)
+		better := changed(m, Fold, Dead)
+		input := sample.Inputs()[1]
+		whole := ir.Run(m, input, 20000)
+		for steps := range 200 {
+			before := holdRuns(t, seed, "Fold and Dead", m, better, input, steps)
+			run := ir.Run(better, input, steps)
+			isWithin := len(run.Out) <= len(whole.Out) && slices.Equal(run.Out, whole.Out[:len(run.Out)])
+			if whole.Status != api.Going && (!isWithin || run.Status != api.Going && !sample.SameRun(run, whole)) {
+				t.Fatalf("seed %d, %d steps: %v, want within %v", seed, steps, run, whole)
+			}
+			if before.Status == api.Going && run.Status != api.Going {
+				fewer++
+			}
+		}
+	}
+	if fewer < 500 {
+		t.Errorf("only %d runs ended earlier", fewer)
+	}
+}
+
+// room is a function whose lists have memory behind their ends, which is not 0.
+func room(c api.Code) api.Code {
+	c.Regs = append(slices.Clone(c.Regs), 77, 88)[:len(c.Regs)]
+	c.Blocks = append(slices.Clone(c.Blocks), api.Block{End: api.End{Kind: 77}})[:len(c.Blocks)]
+	for k := range c.Blocks {
+		code := append(slices.Clone(c.Blocks[k].Code), api.Instr{Op: 77})[:len(c.Blocks[k].Code)]
+		for n := range code {
+			code[n].Args = append(slices.Clone(code[n].Args), 77)[:len(code[n].Args)]
+		}
+		c.Blocks[k].Code = code
+	}
+	return c
+}
+
+// wholeRoom is a function with all that stands behind the ends of its lists.
+func wholeRoom(c api.Code) api.Code {
+	c.Regs = slices.Clone(c.Regs[:cap(c.Regs)])
+	c.Blocks = slices.Clone(c.Blocks[:cap(c.Blocks)])
+	for k := range c.Blocks {
+		code := slices.Clone(c.Blocks[k].Code[:cap(c.Blocks[k].Code)])
+		for n := range code {
+			code[n].Args = slices.Clone(code[n].Args[:cap(code[n].Args)])
+		}
+		c.Blocks[k].Code = code
+	}
+	return c
+}
+
+// scribble overwrites all of a function's lists, and what stands behind their ends.
+func scribble(c api.Code) {
+	blocks := c.Blocks[:cap(c.Blocks)]
+	for _, b := range blocks {
+		code := b.Code[:cap(b.Code)]
+		for _, i := range code {
+			args := i.Args[:cap(i.Args)]
+			for k := range args {
+				args[k] = -99
+			}
+		}
+		for k := range code {
+			code[k] = api.Instr{Op: -99}
+		}
+	}
+	for k := range blocks {
+		blocks[k] = api.Block{End: api.End{Kind: -99}}
+	}
+	regs := c.Regs[:cap(c.Regs)]
+	for k := range regs {
+		regs[k] = -99
+	}
+}
+
+// R3, R4: a function stays as it is, also behind its lists' ends; what becomes of it is new memory; and the same again.
+func TestArgumentsStayAsTheyAre(t *testing.T) {
+	for seed := range 500 {
+		for _, original := range sample.Module(seed, seed%5).Funcs {
+			for name, change := range changes() {
+				c := room(original)
+				before := wholeRoom(c)
+				first, second := change(c), change(c)
+				if !sample.SameCode(first, second) {
+					t.Fatalf("seed %d, %s: another one", seed, name)
+				}
+				scribble(first)
+				if !sample.SameCode(wholeRoom(c), before) {
+					t.Fatalf("seed %d, %s: the function was changed", seed, name)
+				}
+				if !sample.SameCode(second, change(c)) {
+					t.Fatalf("seed %d, %s: one was changed by another", seed, name)
+				}
+			}
+		}
+	}
+}
+
+// R3: no two lists of what becomes of a function share memory.
+func TestListsAreApart(t *testing.T) {
+	args := []int{0, 0}
+	call := api.Instr{Op: api.ICall, Dst: -1, Args: args}
+	code := []api.Instr{call, call, {Op: api.IOut, Args: args}}
+	c := api.Code{Regs: args, Blocks: []api.Block{{Code: code, End: api.End{Kind: api.Jump}}, {Code: code, End: api.End{Kind: api.Jump}}}}
+	for name, change := range changes() {
+		got := change(c)
+		got.Regs[0] = 1
+		for at, b := range got.Blocks {
+			for k := range b.Code {
+				b.Code[k].Args = append(b.Code[k].Args[:1], 10*at+k)
+				b.Code[k].N = 10*at + k
+			}
+		}
+		for at, b := range got.Blocks {
+			for k, i := range b.Code {
+				if i.N != 10*at+k || !slices.Equal(i.Args, []int{0, 10*at + k}) {
+					t.Errorf("%s: instruction %d of block %d is %v", name, k, at, i)
+				}
+			}
+		}
+		if !slices.Equal(args, []int{0, 0}) {
+			t.Errorf("%s: the arguments are %v", name, args)
+		}
+	}
+}
+
+// The rules of the language: what ir.Check never accepts becomes something or nothing, but without a panic, and not forever.
+func TestFunctionsThatAreNone(t *testing.T) {
+	const least, greatest = -1 << 63, 1<<63 - 1
+	odd := func(op, n int) api.Instr {
+		return api.Instr{Op: op, Type: n, Dst: n, A: n, B: n, N: n, S: "/", Args: []int{n, least}}
+	}
+	for _, n := range []int{least, -65, -64, -1, 0, 1, 2, 3, 7, 63, 64, 65, 4096, 1 << 31, greatest} {
+		for kind := -1; kind < 5; kind++ {
+			for op := -1; op < 14; op++ {
+				i := odd(op, n)
+				c := api.Code{Type: n, Params: n, Regs: []int{n, api.Int}, Blocks: []api.Block{{Code: []api.Instr{i, i}, End: api.End{Kind: kind, A: n, To: n, Else: n}}}}
+				for _, change := range changes() {
+					change(c)
+				}
+			}
+		}
+	}
+	for _, change := range changes() {
+		if got := change(api.Code{}); !sample.SameCode(got, api.Code{}) {
+			t.Error(got)
+		}
+	}
+	many := api.Code{Regs: make([]int, 1<<20), Blocks: make([]api.Block, 1<<20)}
+	if got := Dead(many); !sample.SameCode(got, api.Code{}) {
+		t.Error("a function with too many blocks became something")
+	}
+	if got := Fold(many); len(got.Blocks) != 1<<20 {
+		t.Error(len(got.Blocks))
+	}
+}
+
+func TestSpoiledModules(t *testing.T) {
+	random := rand.New(rand.NewSource(8))
+	for seed := range 6000 {
+		m := sample.Module(seed%2000, seed%4)
+		for range 1 + random.Intn(3) {
+			sample.SpoilModule(random.Int(), &m)
+		}
+		isValid := ir.Check(m) == api.OK
+		for way, l := range ways() {
+			better := changed(m, l...)
+			if isValid && ir.Check(better) != api.OK {
+				t.Fatalf("seed %d, %s: error %d", seed, way, ir.Check(better))
+			}
+			if isValid {
+				holdRuns(t, seed, way, m, better, sample.Inputs()[1], 500)
+			}
+		}
+	}
+}
+
+// P8.1, P8.2: a long block in which much is known at once: thousands of registers are equal to one that is written again and again.
+func TestLongBlock(t *testing.T) {
+	const rounds = 64
+	c := api.Code{Type: api.Int, Regs: slices.Repeat([]int{api.Int}, 4096), Blocks: make([]api.Block, 1)}
+	b := &c.Blocks[0]
+	for range rounds {
+		b.Code = append(b.Code, api.Instr{Op: api.IGet})
+		for k := range 4095 {
+			b.Code = append(b.Code, api.Instr{Op: api.ICopy, Dst: k + 1, A: k})
+		}
+	}
+	b.End = api.End{Kind: api.Return, A: 4095}
+	got := Fold(c)
+	for k, i := range got.Blocks[0].Code {
+		if i.A != 0 || i.Dst != k%4096 {
+			t.Fatal(k, i)
+		}
+	}
+	if got.Blocks[0].End.A != 0 {
+		t.Error(got.Blocks[0].End)
+	}
+	if n := len(Dead(got).Blocks[0].Code); n != rounds { // no copy is read
+		t.Error(n)
+	}
+	if n := len(Dead(c).Blocks[0].Code); n != 4096*rounds-(rounds-1) { // of each round but the last one the last copy is not read
+		t.Error(n)
+	}
+}
+
+// P8.2: what is live goes through as many blocks as there may be, each of which goes to the one ahead of it.
+func TestLongWay(t *testing.T) {
+	c := api.Code{Type: api.Int, Regs: slices.Repeat([]int{api.Int}, 4096), Blocks: make([]api.Block, 400)}
+	for k := range c.Blocks {
+		c.Blocks[k] = api.Block{Code: []api.Instr{{Op: api.IConst, Dst: k}}, End: api.End{Kind: api.Jump, To: k - 1}}
+	}
+	c.Blocks[0] = api.Block{Code: []api.Instr{{Op: api.IBin, Type: api.Int, S: "+", A: 398, B: 200}}, End: api.End{Kind: api.Return, A: 399}}
+	got := Dead(c)
+	if len(got.Blocks) != 400 || len(got.Regs) != 4096 {
+		t.Fatal(len(got.Blocks), len(got.Regs))
+	}
+	for k, b := range got.Blocks {
+		if want := k == 399 || k == 398 || k == 200; len(b.Code) == 1 != want {
+			t.Error(k, b.Code)
+		}
+	}
+}
