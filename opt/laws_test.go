@@ -8,19 +8,8 @@ import (
 	"mortise/api"
 	"mortise/ir"
 	"mortise/sample"
+	"mortise/stock"
 )
-
-// changed is a module whose functions were changed, one after the other.
-func changed(m api.Module, changes ...func(api.Code) api.Code) api.Module {
-	out := api.Module{Globals: m.Globals}
-	for _, c := range m.Funcs {
-		for _, change := range changes {
-			c = change(c)
-		}
-		out.Funcs = append(out.Funcs, c)
-	}
-	return out
-}
 
 // ways are the ways to change a module that must keep what it does.
 func ways() map[string][]func(api.Code) api.Code {
@@ -31,9 +20,9 @@ func ways() map[string][]func(api.Code) api.Code {
 
 // P8.3: the functions of a valid module may be replaced, all of them or each alone.
 func TestValidity(t *testing.T) {
-	for name, m := range modules {
+	for name, m := range stock.Modules {
 		for way, l := range ways() {
-			better := changed(m, l...)
+			better := sample.Changed(m, l...)
 			if no := ir.Check(better); no != api.OK {
 				t.Fatalf("seed %d, %s: error %d\n%s", name, way, no, sample.ShowModule(better))
 			}
@@ -48,12 +37,11 @@ func TestValidity(t *testing.T) {
 	}
 }
 
-// holdRuns holds P8.4 for the runs of a module with some steps: one that has ended ends in the same way with as many, and what was output is output; and nothing else is.
+// holdRuns holds P8.4 for the runs of a module with some steps, and is its run before.
 func holdRuns(t *testing.T, name int, way string, m, better api.Module, input []int, steps int) api.Run {
 	t.Helper()
 	want, got := ir.Run(m, input, steps), ir.Run(better, input, steps)
-	switch {
-	case want.Status != api.Going && !sample.SameRun(got, want), len(got.Out) < len(want.Out), !slices.Equal(got.Out[:len(want.Out)], want.Out):
+	if !sample.Keeps(want, got) {
 		t.Fatalf("seed %d, %s, input %v, %d steps: %v, want %v", name, way, input, steps, got, want)
 	}
 	return want
@@ -62,9 +50,9 @@ func holdRuns(t *testing.T, name int, way string, m, better api.Module, input []
 // P8.4: made modules do the same in no more steps.
 func TestPreservation(t *testing.T) {
 	ends := map[[2]int]int{}
-	for name, m := range modules {
+	for name, m := range stock.Modules {
 		for way, l := range ways() {
-			better := changed(m, l...)
+			better := sample.Changed(m, l...)
 			for _, input := range sample.Inputs() {
 				for _, steps := range []int{name&63 + 1, 300, 3000} {
 					run := holdRuns(t, name, way, m, better, input, steps)
@@ -88,7 +76,7 @@ func TestEachStep(t *testing.T) {
 	fewer := 0
 	for seed := range 300 {
 		m := sample.Module(seed, seed%5)
-		better := changed(m, Fold, Dead)
+		better := sample.Changed(m, Fold, Dead)
 		input := sample.Inputs()[1]
 		whole := ir.Run(m, input, 20000)
 		for steps := range 200 {
@@ -108,75 +96,13 @@ func TestEachStep(t *testing.T) {
 	}
 }
 
-// room is a function whose lists have memory behind their ends, which is not 0.
-func room(c api.Code) api.Code {
-	c.Regs = append(slices.Clone(c.Regs), 77, 88)[:len(c.Regs)]
-	c.Blocks = append(slices.Clone(c.Blocks), api.Block{End: api.End{Kind: 77}})[:len(c.Blocks)]
-	for k := range c.Blocks {
-		code := append(slices.Clone(c.Blocks[k].Code), api.Instr{Op: 77})[:len(c.Blocks[k].Code)]
-		for n := range code {
-			code[n].Args = append(slices.Clone(code[n].Args), 77)[:len(code[n].Args)]
-		}
-		c.Blocks[k].Code = code
-	}
-	return c
-}
-
-// wholeRoom is a function with all that stands behind the ends of its lists.
-func wholeRoom(c api.Code) api.Code {
-	c.Regs = slices.Clone(c.Regs[:cap(c.Regs)])
-	c.Blocks = slices.Clone(c.Blocks[:cap(c.Blocks)])
-	for k := range c.Blocks {
-		code := slices.Clone(c.Blocks[k].Code[:cap(c.Blocks[k].Code)])
-		for n := range code {
-			code[n].Args = slices.Clone(code[n].Args[:cap(code[n].Args)])
-		}
-		c.Blocks[k].Code = code
-	}
-	return c
-}
-
-// scribble overwrites all of a function's lists, and what stands behind their ends.
-func scribble(c api.Code) {
-	blocks := c.Blocks[:cap(c.Blocks)]
-	for _, b := range blocks {
-		code := b.Code[:cap(b.Code)]
-		for _, i := range code {
-			args := i.Args[:cap(i.Args)]
-			for k := range args {
-				args[k] = -99
-			}
-		}
-		for k := range code {
-			code[k] = api.Instr{Op: -99}
-		}
-	}
-	for k := range blocks {
-		blocks[k] = api.Block{End: api.End{Kind: -99}}
-	}
-	regs := c.Regs[:cap(c.Regs)]
-	for k := range regs {
-		regs[k] = -99
-	}
-}
-
 // R3, R4: a function stays as it is, also behind its lists' ends; what becomes of it is new memory; and the same again.
 func TestArgumentsStayAsTheyAre(t *testing.T) {
 	for seed := range 500 {
-		for _, original := range sample.Module(seed, seed%5).Funcs {
+		for _, c := range sample.Module(seed, seed%5).Funcs {
 			for name, change := range changes() {
-				c := room(original)
-				before := wholeRoom(c)
-				first, second := change(c), change(c)
-				if !sample.SameCode(first, second) {
-					t.Fatalf("seed %d, %s: another one", seed, name)
-				}
-				scribble(first)
-				if !sample.SameCode(wholeRoom(c), before) {
-					t.Fatalf("seed %d, %s: the function was changed", seed, name)
-				}
-				if !sample.SameCode(second, change(c)) {
-					t.Fatalf("seed %d, %s: one was changed by another", seed, name)
+				if wrong := sample.Apart(change, c); wrong != "" {
+					t.Fatalf("seed %d, %s: %s", seed, name, wrong)
 				}
 			}
 		}
@@ -213,19 +139,9 @@ func TestListsAreApart(t *testing.T) {
 
 // The rules of the language: what ir.Check never accepts becomes something or nothing, but without a panic, and not forever.
 func TestFunctionsThatAreNone(t *testing.T) {
-	const least, greatest = -1 << 63, 1<<63 - 1
-	odd := func(op, n int) api.Instr {
-		return api.Instr{Op: op, Type: n, Dst: n, A: n, B: n, N: n, S: "/", Args: []int{n, least}}
-	}
-	for _, n := range []int{least, -65, -64, -1, 0, 1, 2, 3, 7, 63, 64, 65, 4096, 1 << 31, greatest} {
-		for kind := -1; kind < 5; kind++ {
-			for op := -1; op < 14; op++ {
-				i := odd(op, n)
-				c := api.Code{Type: n, Params: n, Regs: []int{n, api.Int}, Blocks: []api.Block{{Code: []api.Instr{i, i}, End: api.End{Kind: kind, A: n, To: n, Else: n}}}}
-				for _, change := range changes() {
-					change(c)
-				}
-			}
+	for c := range sample.Strange {
+		for _, change := range changes() {
+			change(c)
 		}
 	}
 	for _, change := range changes() {
@@ -251,7 +167,7 @@ func TestSpoiledModules(t *testing.T) {
 		}
 		isValid := ir.Check(m) == api.OK
 		for way, l := range ways() {
-			better := changed(m, l...)
+			better := sample.Changed(m, l...)
 			if isValid && ir.Check(better) != api.OK {
 				t.Fatalf("seed %d, %s: error %d", seed, way, ir.Check(better))
 			}

@@ -6,9 +6,8 @@ import (
 	"testing"
 
 	"mortise/api"
-	"mortise/lower"
-	"mortise/read"
 	"mortise/sample"
+	"mortise/stock"
 	"mortise/word"
 )
 
@@ -178,25 +177,10 @@ func secondDead(c api.Code) api.Code {
 	return c
 }
 
-// modules are made modules, and made programs that were lowered.
-func modules(yield func(name int, m api.Module) bool) {
-	for seed := range 1500 {
-		if !yield(seed, sample.Module(seed, seed%5)) {
-			return
-		}
-	}
-	for seed := range 200 {
-		m, no := lower.Lower(read.Checked(sample.Program(seed, seed%5)))
-		if no == api.OK && !yield(-1-seed, m) {
-			return
-		}
-	}
-}
-
 // P8.1, P8.2: functions become the same by the second reading; once, and again.
 func TestSecondReading(t *testing.T) {
 	found := map[string]int{}
-	for name, m := range modules {
+	for name, m := range stock.Modules {
 		for _, c := range m.Funcs {
 			for range 3 {
 				c = holdSecond(t, name, c, found)

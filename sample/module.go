@@ -5,6 +5,7 @@ import (
 	"strconv"
 
 	"mortise/api"
+	"mortise/clone"
 )
 
 // Module is a module in IR, the same for the same seed and size; the greater the size, up to 4, the more blocks and instructions it has. ir.Check accepts it; it may have loops with several entries, and blocks that are unreachable, bare, or equal to others; most of its runs end, well or by a trap, within some thousand steps.
@@ -79,7 +80,7 @@ func (b *builder) blocks() {
 	count := 1 + b.below(2+3*b.size)
 	for at := range count {
 		if twin := b.below(6 * count); twin < at && leadsBehind(f.Blocks[twin].End, at) {
-			f.Blocks = append(f.Blocks, cloned(f.Blocks[twin]))
+			f.Blocks = append(f.Blocks, clone.Block(f.Blocks[twin]))
 			continue
 		}
 		b.code = nil
@@ -94,15 +95,6 @@ func (b *builder) blocks() {
 // leadsBehind tells whether an end never leads back from a block with a number: a run might go round without end.
 func leadsBehind(e api.End, at int) bool {
 	return e.Kind == api.Return || e.To > at && (e.Kind == api.Jump || e.Else > at)
-}
-
-// cloned is a block that shares nothing with another one.
-func cloned(b api.Block) api.Block {
-	b.Code = slices.Clone(b.Code)
-	for k := range b.Code {
-		b.Code[k].Args = slices.Clone(b.Code[k].Args)
-	}
-	return b
 }
 
 // end ends a block; it may append instructions to it.
