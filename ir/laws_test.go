@@ -1,7 +1,6 @@
 package ir
 
 import (
-	"math/rand"
 	"slices"
 	"testing"
 
@@ -11,7 +10,7 @@ import (
 
 // P6.2, P6.3: made modules are accepted, and do the same by a second reading of the chapter, for different numbers of steps.
 func TestSecondReading(t *testing.T) {
-	ends := map[[2]int]int{}
+	ended := sample.Ended{}
 	for seed := range 3000 {
 		m := sample.Module(seed, seed%5)
 		if wrong := Check(m); wrong != api.OK {
@@ -23,29 +22,19 @@ func TestSecondReading(t *testing.T) {
 				if !sample.SameRun(got, want) {
 					t.Fatalf("seed %d, input %v, %d steps: %v, want %v", seed, input, steps, got, want)
 				}
-				if got.Status == api.Done {
-					want.Code = 0
-				}
-				ends[[2]int{want.Status, want.Code}]++
+				ended.Add(want)
 			}
 		}
 	}
-	for _, end := range [][2]int{{api.Done}, {api.Going}, {api.Trapped, 1}, {api.Trapped, 2}, {api.Trapped, 3}, {api.Trapped, 4}} {
-		if ends[end] < 20 {
-			t.Errorf("only %d runs ended with %v", ends[end], end)
-		}
+	if rare := ended.Rare(20); len(rare) > 0 {
+		t.Error("few runs ended so:", rare)
 	}
 }
 
 // P6.2: the first error of spoiled modules is that of the second reading; R1: a run of whatever Check refuses is none.
 func TestSpoiledModules(t *testing.T) {
-	random := rand.New(rand.NewSource(6))
 	found := map[api.Errno]int{}
-	for seed := range 15000 {
-		m := sample.Module(seed%2000, seed%4)
-		for range 1 + random.Intn(3) {
-			sample.SpoilModule(random.Int(), &m)
-		}
+	for seed, m := range sample.Spoiled(15000) {
 		got, want := Check(m), secondCheck(m)
 		if got != want {
 			t.Fatalf("seed %d: error %d, want %d", seed, got, want)

@@ -53,23 +53,18 @@ func holdModule(t *testing.T, text string) []api.Run {
 
 // P7.2, P7.3: made programs become valid modules that do the same.
 func TestModulesDoTheSame(t *testing.T) {
-	ends := map[[2]int]int{}
+	ended := sample.Ended{}
 	for seed := range 700 {
 		text := sample.Program(seed, seed%5)
 		if _, no := Lower(read.Checked(text)); no == api.ErrMany {
 			continue
 		}
 		for _, run := range holdModule(t, text) {
-			if run.Status == api.Done {
-				run.Code = 0
-			}
-			ends[[2]int{run.Status, run.Code}]++
+			ended.Add(run)
 		}
 	}
-	for _, end := range [][2]int{{api.Done}, {api.Trapped, 1}, {api.Trapped, 2}, {api.Trapped, 3}, {api.Trapped, 4}} {
-		if ends[end] < 20 {
-			t.Errorf("only %d runs ended with %v", ends[end], end)
-		}
+	if rare := ended.Rare(20); len(rare) > 0 {
+		t.Error("few runs ended so:", rare)
 	}
 }
 

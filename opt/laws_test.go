@@ -1,7 +1,6 @@
 package opt
 
 import (
-	"math/rand"
 	"slices"
 	"testing"
 
@@ -49,25 +48,20 @@ func holdRuns(t *testing.T, name int, way string, m, better api.Module, input []
 
 // P8.4: made modules do the same in no more steps.
 func TestPreservation(t *testing.T) {
-	ends := map[[2]int]int{}
+	ended := sample.Ended{}
 	for name, m := range stock.Modules {
 		for way, l := range ways() {
 			better := sample.Changed(m, l...)
 			for _, input := range sample.Inputs() {
 				for _, steps := range []int{name&63 + 1, 300, 3000} {
 					run := holdRuns(t, name, way, m, better, input, steps)
-					if run.Status == api.Done {
-						run.Code = 0
-					}
-					ends[[2]int{run.Status, run.Code}]++
+					ended.Add(run)
 				}
 			}
 		}
 	}
-	for _, end := range [][2]int{{api.Done}, {api.Going}, {api.Trapped, 1}, {api.Trapped, 2}, {api.Trapped, 3}, {api.Trapped, 4}} {
-		if ends[end] < 100 {
-			t.Errorf("only %d runs ended with %v", ends[end], end)
-		}
+	if rare := ended.Rare(100); len(rare) > 0 {
+		t.Error("few runs ended so:", rare)
 	}
 }
 
@@ -159,12 +153,7 @@ func TestFunctionsThatAreNone(t *testing.T) {
 }
 
 func TestSpoiledModules(t *testing.T) {
-	random := rand.New(rand.NewSource(8))
-	for seed := range 6000 {
-		m := sample.Module(seed%2000, seed%4)
-		for range 1 + random.Intn(3) {
-			sample.SpoilModule(random.Int(), &m)
-		}
+	for seed, m := range sample.Spoiled(6000) {
 		isValid := ir.Check(m) == api.OK
 		for way, l := range ways() {
 			better := sample.Changed(m, l...)

@@ -43,6 +43,22 @@ func SpoilProgram(seed int, p *api.Program) {
 	}
 }
 
+// Spoiled are so many made modules, named by numbers from 0 on, in each of which some things were exchanged; many of them are still valid.
+func Spoiled(count int) func(yield func(name int, m api.Module) bool) {
+	return func(yield func(int, api.Module) bool) {
+		d := newDice(count)
+		for name := range count {
+			m := Module(name%2000, name%4)
+			for range 1 + d.below(3) {
+				SpoilModule(d.below(1<<31), &m)
+			}
+			if !yield(name, m) {
+				return
+			}
+		}
+	}
+}
+
 // SpoilModule exchanges something of a module, the same for the same seed, sometimes by what is right there, too.
 func SpoilModule(seed int, m *api.Module) {
 	d := newDice(seed)

@@ -16,7 +16,7 @@ func isWithin(short, long []int) bool {
 
 // P5.1 to P5.4: made programs do the same by a second reading of the chapter, for different numbers of steps.
 func TestSecondReading(t *testing.T) {
-	ends := map[[2]int]int{}
+	ended := sample.Ended{}
 	for seed := range 1500 {
 		text := sample.Program(seed, seed%5)
 		p := read.Checked(text)
@@ -26,17 +26,12 @@ func TestSecondReading(t *testing.T) {
 				if !sample.SameRun(got, want) {
 					t.Fatalf("seed %d, input %v, %d steps: %v, want %v\n%s", seed, input, steps, got, want, text)
 				}
-				if got.Status == api.Done {
-					want.Code = 0
-				}
-				ends[[2]int{want.Status, want.Code}]++
+				ended.Add(want)
 			}
 		}
 	}
-	for _, end := range [][2]int{{api.Done}, {api.Going}, {api.Trapped, 1}, {api.Trapped, 2}, {api.Trapped, 3}, {api.Trapped, 4}} {
-		if ends[end] < 20 {
-			t.Errorf("only %d runs ended with %v", ends[end], end)
-		}
+	if rare := ended.Rare(20); len(rare) > 0 {
+		t.Error("few runs ended so:", rare)
 	}
 }
 

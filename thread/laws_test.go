@@ -72,7 +72,7 @@ func holdLaws(t *testing.T, m api.Module, most int) {
 
 // P9.2, P9.3: made modules and lowered programs, as they are and after opt, are accepted, do the same in no more steps, and are as small as can be; also if only one function is threaded.
 func TestLaws(t *testing.T) {
-	ends := map[[2]int]int{}
+	ended := sample.Ended{}
 	for name, m := range stock.Modules {
 		for _, m := range []api.Module{m, sample.Changed(m, opt.Fold, opt.Dead)} {
 			threaded := sample.Changed(m, Thread)
@@ -87,17 +87,12 @@ func TestLaws(t *testing.T) {
 			}
 			for _, input := range sample.Inputs() {
 				run := holdRuns(t, m, threaded, input, 3000)
-				if run.Status == api.Done {
-					run.Code = 0
-				}
-				ends[[2]int{run.Status, run.Code}]++
+				ended.Add(run)
 			}
 		}
 	}
-	for _, end := range [][2]int{{api.Done}, {api.Going}, {api.Trapped, 1}, {api.Trapped, 2}, {api.Trapped, 3}, {api.Trapped, 4}} {
-		if ends[end] < 50 {
-			t.Errorf("only %d runs ended with %v", ends[end], end)
-		}
+	if rare := ended.Rare(50); len(rare) > 0 {
+		t.Error("few runs ended so:", rare)
 	}
 }
 
@@ -176,13 +171,8 @@ func TestFunctionsThatAreNone(t *testing.T) {
 }
 
 func TestSpoiledModules(t *testing.T) {
-	random := rand.New(rand.NewSource(9))
 	valid := 0
-	for seed := range 6000 {
-		m := sample.Module(seed%2000, seed%4)
-		for range 1 + random.Intn(3) {
-			sample.SpoilModule(random.Int(), &m)
-		}
+	for seed, m := range sample.Spoiled(6000) {
 		isValid := ir.Check(m) == api.OK
 		threaded := sample.Changed(m, Thread)
 		if !isValid {

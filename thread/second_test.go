@@ -1,7 +1,6 @@
 package thread
 
 import (
-	"math/rand"
 	"testing"
 
 	"mortise/api"
@@ -203,67 +202,15 @@ func TestSecondReadingOfTangles(t *testing.T) {
 	}
 }
 
-// tangle is a main of blocks that lead anywhere; its registers are an Int, which is mostly what was read last, and a Long.
-func tangle(seed int) api.Code {
-	random := rand.New(rand.NewSource(int64(seed)))
-	c := api.Code{Name: "main", Type: api.Int, Regs: []int{api.Int, api.Long}}
-	count := 1 + random.Intn(3+seed%10)
-	isBareOften := random.Intn(3)
-	for k := range count {
-		b := api.Block{End: api.End{Kind: api.Jump, To: random.Intn(count)}}
-		if random.Intn(3) > isBareOften {
-			b.Code = append(b.Code, api.Instr{Op: api.IIn, Dst: 1}, api.Instr{Op: api.IConv, Type: api.Int, A: 1})
-		}
-		if random.Intn(3) > isBareOften {
-			b.Code = append(b.Code, api.Instr{Op: api.IConst, Dst: 1, N: k}, api.Instr{Op: api.IOut, A: 1})
-		}
-		switch random.Intn(7) {
-		case 0:
-			b.End = api.End{Kind: api.Return}
-		case 1, 2, 3:
-			b.End.Kind, b.End.Else = api.Branch, random.Intn(count)
-		}
-		c.Blocks = append(c.Blocks, b)
-	}
-	return c
-}
+// tangle is a function of blocks that lead anywhere, mostly of few.
+func tangle(seed int) api.Code { return sample.Tangle(seed, 3+seed%10) }
 
 // P9.1, P9.3: all functions of up to three blocks, each with an instruction or without.
 func TestAllSmallFunctions(t *testing.T) {
 	for count := 1; count <= 3; count++ {
-		kinds := allBlocks(count)
-		total := 1
-		for range count {
-			total *= len(kinds)
-		}
-		for name := range total {
-			c := api.Code{Name: "main", Type: api.Int, Regs: []int{api.Int}}
-			rest := name
-			for k := range count {
-				b := clone.Block(kinds[rest%len(kinds)])
-				for i := range b.Code {
-					b.Code[i].N = k
-				}
-				c.Blocks = append(c.Blocks, b)
-				rest /= len(kinds)
-			}
-			holdSecond(t, name, c, &deeds{})
+		for c := range sample.Small(count, true) {
+			holdSecond(t, count, c, &deeds{})
 			holdMinimal(t, c, Thread(c))
 		}
 	}
-}
-
-// allBlocks are all blocks of a function with so many of them, with one instruction or none.
-func allBlocks(count int) []api.Block {
-	var l []api.Block
-	for _, code := range [][]api.Instr{nil, {{Op: api.IConst}}} {
-		l = append(l, api.Block{Code: code, End: api.End{Kind: api.Return}})
-		for to := range count {
-			l = append(l, api.Block{Code: code, End: api.End{Kind: api.Jump, To: to}})
-			for other := range count {
-				l = append(l, api.Block{Code: code, End: api.End{Kind: api.Branch, To: to, Else: other}})
-			}
-		}
-	}
-	return l
 }
