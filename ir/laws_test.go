@@ -59,16 +59,8 @@ func TestSpoiledModules(t *testing.T) {
 func TestMoreSteps(t *testing.T) {
 	for seed := range 300 {
 		m := sample.Module(seed, seed%5)
-		before := Run(m, sample.Inputs()[1], -1)
-		for steps := range 300 {
-			run := Run(m, sample.Inputs()[1], steps)
-			if !isWithin(before.Out, run.Out) || before.Status != api.Going && !sample.SameRun(before, run) {
-				t.Fatalf("seed %d, %d steps: %v, with one less %v", seed, steps, run, before)
-			}
-			if run.Status == api.Going && run.Code != 0 {
-				t.Fatalf("seed %d, %d steps: %v", seed, steps, run)
-			}
-			before = run
+		if wrong := runs(m).MoreSteps(sample.Inputs()[1], 300); wrong != "" {
+			t.Fatalf("seed %d: %s", seed, wrong)
 		}
 	}
 }
@@ -131,11 +123,8 @@ func countingCode(code []api.Instr, register int) []api.Instr {
 func TestZerosAtTheEnd(t *testing.T) {
 	for seed := range 1000 {
 		m := sample.Module(seed, seed%5)
-		for _, input := range sample.Inputs() {
-			a, b := Run(m, input, 3000), Run(m, append(slices.Clone(input), 0, 0, 0), 3000)
-			if !sample.SameRun(a, b) {
-				t.Fatalf("seed %d: %v, with zeros %v", seed, a, b)
-			}
+		if wrong := runs(m).ZerosAtTheEnd(3000); wrong != "" {
+			t.Fatalf("seed %d: %s", seed, wrong)
 		}
 	}
 }
@@ -144,17 +133,9 @@ func TestZerosAtTheEnd(t *testing.T) {
 func TestArgumentsStayAsTheyAre(t *testing.T) {
 	for seed := range 300 {
 		m, same := sample.Module(seed, 2), sample.Module(seed, 2)
-		room := []int{4, 5, 6, 77, 88, 99}
-		input := room[:3]
 		Check(m)
-		run := Run(m, input, 2000)
-		first := slices.Clone(run.Out)
-		clear(run.Out[:cap(run.Out)])
-		if again := Run(m, input, 2000); !slices.Equal(again.Out, first) {
-			t.Fatal(seed, again.Out, first)
-		}
-		if !slices.Equal(room, []int{4, 5, 6, 77, 88, 99}) {
-			t.Fatal(seed, room)
+		if wrong := runs(m).Apart(2000); wrong != "" {
+			t.Fatalf("seed %d: %s", seed, wrong)
 		}
 		if !sample.SameModule(m, same) {
 			t.Fatal(seed, "the module was changed")

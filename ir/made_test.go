@@ -4,6 +4,7 @@ import (
 	"slices"
 
 	"mortise/api"
+	"mortise/sample"
 )
 
 // Shorter ways to write modules in tests.
@@ -68,6 +69,7 @@ func trapped(number int, out ...int) api.Run {
 	return api.Run{Out: out, Status: api.Trapped, Code: number}
 }
 
-func isWithin(short, long []int) bool {
-	return len(short) <= len(long) && slices.Equal(short, long[:len(short)])
+// runs are the runs of a module.
+func runs(m api.Module) sample.Runs {
+	return func(input []int, steps int) api.Run { return Run(m, input, steps) }
 }

@@ -26,16 +26,8 @@ func try(t *testing.T, l []trial) {
 			t.Errorf("%s: error %d", x.name, wrong)
 			continue
 		}
-		for _, steps := range []int{x.steps, x.steps + 1, x.steps + 1000, math.MaxInt} {
-			if run := Run(x.m, x.input, steps); !sample.SameRun(run, x.run) {
-				t.Errorf("%s, %d steps: %v, want %v", x.name, steps, run, x.run)
-			}
-		}
-		for steps := -1; steps < x.steps; steps++ {
-			run := Run(x.m, x.input, steps)
-			if run.Status != api.Going || run.Code != 0 || !isWithin(run.Out, x.run.Out) {
-				t.Errorf("%s, %d steps: %v, want it to be going on", x.name, steps, run)
-			}
+		if wrong := runs(x.m).Take(x.input, x.steps, x.run); wrong != "" {
+			t.Errorf("%s, %s", x.name, wrong)
 		}
 	}
 }

@@ -23,7 +23,7 @@ func Keeps(before, after api.Run) bool {
 	if before.Status != api.Going {
 		return SameRun(before, after)
 	}
-	return len(after.Out) >= len(before.Out) && slices.Equal(after.Out[:len(before.Out)], before.Out)
+	return isWithin(before.Out, after.Out)
 }
 
 // Apart tells what is wrong with how a change takes a function: that stays as it is, also behind its lists' ends; what becomes of it is new memory, no two lists of which share any; and it is the same again.

@@ -41,14 +41,6 @@ func (b *builder) global(isArray bool) int {
 	return slices.IndexFunc(b.Globals, func(g api.Global) bool { return (g.Size > 0) == isArray })
 }
 
-// constant is a number of a type.
-func (b *builder) constant(t int) int {
-	if t == api.Long && b.chance(3) {
-		return b.number(1<<31, 1<<32, 1<<40+5, -1<<40, 33, -1<<63, 1<<63-1)
-	}
-	return b.number(0, 1, 2, 3, 5, 7, 31, 32, 100, 255, -1, -2, -128, -1<<31, 1<<31-1)
-}
-
 // heldAs is the type of a register that holds an element of a type.
 func heldAs(t int) int {
 	if t == api.Long {

@@ -1,4 +1,4 @@
-// Package sample makes programs, and modules in IR, by which the tests hold the layers against each other.
+// Package sample makes programs, modules in IR, and modules of Wasm, by which the tests hold the layers against each other.
 package sample
 
 import (

@@ -1,7 +1,6 @@
 package sem
 
 import (
-	"slices"
 	"testing"
 
 	"mortise/api"
@@ -10,8 +9,9 @@ import (
 	"mortise/sample"
 )
 
-func isWithin(short, long []int) bool {
-	return len(short) <= len(long) && slices.Equal(short, long[:len(short)])
+// runs are the runs of a program.
+func runs(p api.Program) sample.Runs {
+	return func(input []int, steps int) api.Run { return Run(p, input, steps) }
 }
 
 // P5.1 to P5.4: made programs do the same by a second reading of the chapter, for different numbers of steps.
@@ -39,16 +39,8 @@ func TestSecondReading(t *testing.T) {
 func TestMoreSteps(t *testing.T) {
 	for seed := range 120 {
 		p := read.Checked(sample.Program(seed, 2))
-		before := Run(p, sample.Inputs()[1], -1)
-		for steps := range 300 {
-			run := Run(p, sample.Inputs()[1], steps)
-			if !isWithin(before.Out, run.Out) || before.Status != api.Going && !sample.SameRun(before, run) {
-				t.Fatalf("seed %d, %d steps: %v, with one less %v", seed, steps, run, before)
-			}
-			if run.Status == api.Going && run.Code != 0 {
-				t.Fatalf("seed %d, %d steps: %v", seed, steps, run)
-			}
-			before = run
+		if wrong := runs(p).MoreSteps(sample.Inputs()[1], 300); wrong != "" {
+			t.Fatalf("seed %d: %s", seed, wrong)
 		}
 	}
 }
@@ -57,11 +49,8 @@ func TestMoreSteps(t *testing.T) {
 func TestZerosAtTheEnd(t *testing.T) {
 	for seed := range 500 {
 		p := read.Checked(sample.Program(seed, seed%4))
-		for _, input := range sample.Inputs() {
-			a, b := Run(p, input, 3000), Run(p, append(slices.Clone(input), 0, 0, 0), 3000)
-			if !sample.SameRun(a, b) {
-				t.Fatalf("seed %d: %v, with zeros %v", seed, a, b)
-			}
+		if wrong := runs(p).ZerosAtTheEnd(3000); wrong != "" {
+			t.Fatalf("seed %d: %s", seed, wrong)
 		}
 	}
 }
@@ -85,19 +74,8 @@ func TestArgumentsStayAsTheyAre(t *testing.T) {
 	for seed := range 100 {
 		text := sample.Program(seed, 2)
 		p, same := read.Checked(text), read.Checked(text)
-		room := []int{4, 5, 6, 77, 88, 99}
-		input := room[:3]
-		run := Run(p, input, 2000)
-		first := slices.Clone(run.Out)
-		for i := range run.Out {
-			run.Out[i] = -1
-		}
-		if !slices.Equal(room, []int{4, 5, 6, 77, 88, 99}) {
-			t.Fatal(seed, room)
-		}
-		clear(run.Out[:cap(run.Out)])
-		if again := Run(p, input, 2000); !slices.Equal(again.Out, first) {
-			t.Fatal(seed, again.Out, first)
+		if wrong := runs(p).Apart(2000); wrong != "" {
+			t.Fatalf("seed %d: %s", seed, wrong)
 		}
 		if !sample.SameProgram(p, same) {
 			t.Fatal(seed, "the program was changed")

@@ -2,17 +2,15 @@ package sem
 
 import (
 	"mortise/api"
+	"mortise/course"
 	"mortise/word"
 )
 
 // machine runs a program: its plan, and how far it has come.
 type machine struct {
 	plan
-	input  []int // what was not read yet
-	out    []int
-	steps  int     // that are left
+	course.Course
 	memory [][]int // the globals' elements: a scalar has one
-	calls  int     // that are open
 }
 
 // frame is an open call: its function, its variables, and what it returns.
@@ -23,7 +21,7 @@ type frame struct {
 }
 
 func newMachine(p api.Program, input []int, steps int) machine {
-	m := machine{plan: newPlan(p), input: input, steps: steps}
+	m := machine{plan: newPlan(p), Course: course.New(input, steps)}
 	for _, g := range p.Globals {
 		if g.Size > api.MaxData {
 			panic("an array that no text has")
@@ -33,36 +31,22 @@ func newMachine(p api.Program, input []int, steps int) machine {
 	return m
 }
 
-// begin consumes a step, for a statement or an expression that has to begin.
-func (m *machine) begin() {
-	if m.steps <= 0 {
-		panic(ending{status: api.Going})
-	}
-	m.steps--
-}
-
-// trap ends the run.
-func trap(number int) { panic(ending{api.Trapped, number}) }
-
 // call is what a call of a function returns.
 func (m *machine) call(function int, arguments []int) int {
-	if m.calls >= api.MaxCalls {
-		trap(api.TrapCalls)
-	}
-	m.calls++
+	m.Open()
 	f := &m.functions[function]
 	c := &frame{function: function, variables: make([]int, len(f.Vars))}
 	copy(c.variables, arguments)
 	for at := f.Body; at != end; {
 		at = m.statement(c, at)
 	}
-	m.calls--
+	m.Close()
 	return c.result
 }
 
 // statement runs a statement up to where another one has to begin, and tells which: a statement within it, its continuation, or whereto it jumps.
 func (m *machine) statement(c *frame, at int) int {
-	m.begin()
+	m.Step()
 	n := &m.nodes[at]
 	switch n.Op {
 	case api.SBlock:
@@ -115,7 +99,7 @@ func (m *machine) act(c *frame, n *api.Node) {
 		i, v := m.value(c, n.Kids[0]), m.value(c, n.Kids[1])
 		*m.element(n.Ref, i) = word.Wrap(m.globals[n.Ref].Type, v)
 	case api.SOut:
-		m.out = append(m.out, m.value(c, n.Kids[0]))
+		m.Write(m.value(c, n.Kids[0]))
 	case api.SExpr:
 		m.value(c, n.Kids[0])
 	default:
@@ -146,7 +130,7 @@ func (m *machine) place(c *frame, ref int) *int {
 func (m *machine) element(array, i int) *int {
 	l := m.memory[array]
 	if i < 0 || i >= len(l) {
-		trap(api.TrapIndex)
+		course.Trap(api.TrapIndex)
 	}
 	return &l[i]
 }

@@ -28,16 +28,8 @@ func try(t *testing.T, l []trial) {
 	t.Helper()
 	for _, x := range l {
 		p := read.Checked(x.text)
-		for _, steps := range []int{x.steps, x.steps + 1, x.steps + 1000} {
-			if run := Run(p, x.input, steps); !sample.SameRun(run, x.run) {
-				t.Errorf("%s, input %v, %d steps: %v, want %v", x.text, x.input, steps, run, x.run)
-			}
-		}
-		for steps := -1; steps < x.steps; steps++ {
-			run := Run(p, x.input, steps)
-			if run.Status != api.Going || run.Code != 0 || !isWithin(run.Out, x.run.Out) {
-				t.Errorf("%s, input %v, %d steps: %v, want it to be going on", x.text, x.input, steps, run)
-			}
+		if wrong := runs(p).Take(x.input, x.steps, x.run); wrong != "" {
+			t.Errorf("%s, input %v, %s", x.text, x.input, wrong)
 		}
 	}
 }

@@ -2,12 +2,13 @@ package sem
 
 import (
 	"mortise/api"
+	"mortise/course"
 	"mortise/word"
 )
 
 // value evaluates an expression.
 func (m *machine) value(c *frame, at int) int {
-	m.begin()
+	m.Step()
 	n := &m.nodes[at]
 	switch n.Op {
 	case api.ENumber:
@@ -25,7 +26,7 @@ func (m *machine) value(c *frame, at int) int {
 	case api.ECall:
 		return m.call(n.Ref, m.arguments(c, n))
 	case api.EIn:
-		return m.read()
+		return m.Read()
 	}
 	panic("a node that is no expression")
 }
@@ -39,23 +40,13 @@ func (m *machine) arguments(c *frame, n *api.Node) []int {
 	return l
 }
 
-// read is the next input.
-func (m *machine) read() int {
-	if len(m.input) == 0 {
-		return 0
-	}
-	v := m.input[0]
-	m.input = m.input[1:]
-	return v
-}
-
 // unary is what a sign makes of the value of its kid.
 func unary(n *api.Node, v int) int {
 	switch n.S {
 	case "-":
-		return operate(n.Type, "-", 0, v)
+		return course.Bin(n.Type, "-", 0, v)
 	case "~":
-		return operate(n.Type, "^", v, -1)
+		return course.Bin(n.Type, "^", v, -1)
 	}
 	return truth(v == 0)
 }
@@ -71,16 +62,7 @@ func (m *machine) binary(c *frame, n *api.Node) int {
 	if isAnd || isOr {
 		return truth(right != 0)
 	}
-	return operate(m.signType(n), n.S, left, right)
-}
-
-// operate is what an operation makes of two values; its trap ends the run.
-func operate(t int, op string, a, b int) int {
-	v, number := word.Bin(t, op, a, b)
-	if number != api.NoTrap {
-		trap(number)
-	}
-	return v
+	return course.Bin(m.signType(n), n.S, left, right)
 }
 
 func truth(holds bool) int {
