@@ -162,12 +162,13 @@ func TestZerosAtTheEnd(t *testing.T) {
 // R3, R4: neither the module nor the input is changed, also behind its length; the output is new memory; and a run is the same again.
 func TestArgumentsStayAsTheyAre(t *testing.T) {
 	for seed := range 300 {
-		m, same := sample.Wasm(seed, 2), sample.Wasm(seed, 2)
-		Check(m)
-		if wrong := runs(m).Apart(2000); wrong != "" {
-			t.Fatalf("seed %d: %s", seed, wrong)
-		}
-		if !sample.SameWasm(m, same) {
+		stays := sample.WasmStays(sample.Wasm(seed, 2), func(m api.WModule) {
+			Check(m)
+			if wrong := runs(m).Apart(2000); wrong != "" {
+				t.Errorf("seed %d: %s", seed, wrong)
+			}
+		})
+		if !stays {
 			t.Fatal(seed, "the module was changed")
 		}
 	}
@@ -194,30 +195,9 @@ func TestSpareCapacityStaysAsItIs(t *testing.T) {
 	}
 }
 
-// strange are instructions whose numbers are hardly ever right.
-func strange(yield func(api.W) bool) {
-	numbers := []int{-1 << 63, -1 << 31, -2, -1, 0, 1, 2, 3, 4, 8, 1 << 31, 1 << 32, 1<<63 - 1}
-	for op := -1; op < 21; op++ {
-		for _, n := range numbers {
-			for _, kind := range numbers {
-				for _, at := range numbers {
-					if !yield(api.W{Op: op, Type: kind, N: n, Body: at, Other: n, S: "div_s"}) {
-						return
-					}
-				}
-			}
-		}
-	}
-}
-
 // R1: whatever is in a module, there is an answer.
 func TestStrangeModules(t *testing.T) {
-	for i := range strange {
-		for _, lists := range [][][]api.W{{{i}}, {{i}, {{Op: api.WTrap}, i}}, {{{Op: api.WTrap}, i}, nil, {{Op: api.WBlock}, i}}} {
-			f := api.WFunc{Type: api.Int, Locals: []int{api.Int}, Lists: lists}
-			holdSmall(t, api.WModule{Funcs: []api.WFunc{f, {Params: []int{i.N}, Type: i.N}}, Memory: 8})
-			f.Type = i.Type
-			holdSmall(t, api.WModule{Funcs: []api.WFunc{f}, Memory: i.Body, Main: i.N})
-		}
+	for m := range sample.StrangeWasm {
+		holdSmall(t, m)
 	}
 }

@@ -7,25 +7,12 @@ import (
 	"mortise/sample"
 )
 
-// nested is lists each of which is within the next one, so many levels of them around the innermost one.
-func nested(levels int, innermost []api.W, op int) [][]api.W {
-	lists := [][]api.W{innermost}
-	for k := range levels {
-		l := []api.W{{Op: op, Body: k, Other: -1}}
-		if op == api.WIf {
-			l = append([]api.W{{Op: api.WConst, Type: api.Int, N: 1}}, l...)
-		}
-		lists = append(lists, l)
-	}
-	return lists
-}
-
 // R1: 2^16 levels of nesting are no error, and may be left at once.
 func TestDeepNesting(t *testing.T) {
 	const levels = 1 << 16
 	leave := sample.Lists("const t1 n7, return")[0]
 	for _, op := range []int{api.WBlock, api.WLoop, api.WIf} {
-		f := api.WFunc{Type: api.Int, Lists: nested(levels, leave, op)}
+		f := api.WFunc{Type: api.Int, Lists: sample.Nested(levels, leave, op)}
 		f.Lists[levels] = append(f.Lists[levels], api.W{Op: api.WConst, Type: api.Int, N: 8})
 		steps := levels + 2
 		if op == api.WIf {
@@ -54,7 +41,7 @@ func TestDeepNesting(t *testing.T) {
 func TestDeepNestingInCalls(t *testing.T) {
 	const levels = 1 << 14
 	f := function(api.Int, "const t1")
-	f.Lists = nested(levels, sample.Lists("call n3, drop")[0], api.WBlock)
+	f.Lists = sample.Nested(levels, sample.Lists("call n3, drop")[0], api.WBlock)
 	f.Lists[levels] = append(f.Lists[levels], api.W{Op: api.WConst, Type: api.Int})
 	if run := Run(api.WModule{Funcs: []api.WFunc{f}}, nil, 1<<30); !sample.SameRun(run, trapped(api.TrapCalls)) {
 		t.Error(run)
